@@ -1,0 +1,132 @@
+package scanner
+
+import (
+	"cmp"
+	"slices"
+
+	"koine/api"
+	"koine/diagram"
+	"koine/facts"
+)
+
+// Check reports whether a scan is well-formed.
+func Check(g api.Grammar, x api.Scan) api.Errno {
+	if e := facts.Check(g); e != api.OK {
+		return e
+	}
+	c := checker{sets: newSets(), grammar: g, end: x.End}
+	valid := within(x.End, 0, api.MaxText) && c.faults(x.Faults, x.Good) &&
+		c.lexemes(x.Lexemes, api.Ordinary) && c.lexemes(x.Remarks, api.Remark) && c.apart(slices.Concat(x.Lexemes, x.Remarks))
+	switch {
+	case c.e != api.OK:
+		return c.e
+	case !valid:
+		return api.ErrArg
+	}
+	return api.OK
+}
+
+// within reports whether n is a number from least to most.
+func within(n, least, most int) bool { return least <= n && n <= most }
+
+// fits reports whether a set is valid and depends on conditions of a grammar only.
+func fits(g api.Grammar, d api.Diagram) bool {
+	return diagram.Check(d) == api.OK && !slices.ContainsFunc(d.Nodes, func(b api.Branch) bool { return b.Var >= len(g.Conditions) })
+}
+
+// A checker checks the parts of a scan.
+type checker struct {
+	*sets
+	grammar api.Grammar
+	end     int
+	good    int
+}
+
+// some returns the number of a set, and whether it fits the grammar and is not empty.
+func (c *checker) some(d api.Diagram) (int, bool) {
+	if !fits(c.grammar, d) {
+		return nothing, false
+	}
+	n := c.number(d)
+	return n, n != nothing
+}
+
+// faults reports whether the faults are valid, and leave the good configurations of the family.
+func (c *checker) faults(list []api.Fault, good api.Diagram) bool {
+	c.good = c.number(c.grammar.Family)
+	for i, f := range list {
+		set, ok := c.some(f.If)
+		if !ok || !within(f.At, 0, c.end-1) || i > 0 && !earlier(list[i-1], f) || !c.subset(set, c.good) {
+			return false
+		}
+		c.good = c.without(c.good, set)
+	}
+	return diagram.Same(good, c.list[c.good])
+}
+
+// earlier reports whether a fault comes before another one.
+func earlier(a, b api.Fault) bool {
+	return a.At < b.At || a.At == b.At && !a.Cut && b.Cut
+}
+
+// lexemes reports whether the elements of a list are valid, each by itself, given the class of their tokens.
+func (c *checker) lexemes(list []api.Lexeme, class int) bool {
+	for i, x := range list {
+		if i > 0 && cmp.Or(cmp.Compare(list[i-1].From, x.From), cmp.Compare(list[i-1].To, x.To)) >= 0 {
+			return false
+		}
+		if x.From < 0 || x.From >= x.To || x.To > c.end || !within(x.Column, 0, x.From) {
+			return false
+		}
+		set, ok := c.some(x.If)
+		if !ok || !c.subset(set, c.good) || !c.choices(x.Choices, set, class) {
+			return false
+		}
+	}
+	return true
+}
+
+// choices reports whether the choices of a lexeme with a set are valid.
+func (c *checker) choices(list []api.Choice, lexeme, class int) bool {
+	left := lexeme // for remarks: the configurations without one of the choices so far
+	for i, x := range list {
+		if i > 0 && list[i-1].Token >= x.Token || !within(x.Token, 0, len(c.grammar.Tokens)-1) {
+			return false
+		}
+		t := c.grammar.Tokens[x.Token]
+		set, ok := c.some(x.If)
+		if !ok || t.Class != class || !c.subset(set, left) || !c.subset(set, c.number(t.If)) {
+			return false
+		}
+		if class == api.Remark {
+			left = c.without(left, set)
+		}
+	}
+	return class != api.Remark || left == nothing
+}
+
+// A span is the bytes of a lexeme, and the number of its set.
+type span struct{ from, to, set int }
+
+// apart reports whether no two of several valid lexemes have both a common byte and a common configuration.
+func (c *checker) apart(list []api.Lexeme) bool {
+	starts := make([]span, 0, len(list))
+	for _, x := range list {
+		starts = append(starts, span{x.From, x.To, c.number(x.If)})
+	}
+	slices.SortFunc(starts, func(a, b span) int { return cmp.Compare(a.from, b.from) })
+	ends := slices.Clone(starts)
+	slices.SortFunc(ends, func(a, b span) int { return cmp.Compare(a.to, b.to) })
+	open := nothing // the configurations that have a lexeme here
+	for _, next := range starts {
+		for ends[0].to <= next.from {
+			open = c.without(open, ends[0].set)
+			ends = ends[1:]
+		}
+		if !c.disjoint(open, next.set) {
+			return false
+		}
+		open = c.or(open, next.set)
+	}
+	return true
+}
