@@ -7,6 +7,7 @@ import (
 	"koine/api"
 	"koine/diagram"
 	"koine/facts"
+	"koine/sets"
 )
 
 // Check reports whether a scan is well-formed.
@@ -14,12 +15,12 @@ func Check(g api.Grammar, x api.Scan) api.Errno {
 	if e := facts.Check(g); e != api.OK {
 		return e
 	}
-	c := checker{sets: newSets(), grammar: g, end: x.End}
+	c := checker{Numbers: sets.New(), grammar: g, end: x.End}
 	valid := within(x.End, 0, api.MaxText) && c.faults(x.Faults, x.Good) &&
 		c.lexemes(x.Lexemes, api.Ordinary) && c.lexemes(x.Remarks, api.Remark) && c.apart(slices.Concat(x.Lexemes, x.Remarks))
 	switch {
-	case c.e != api.OK:
-		return c.e
+	case c.E != api.OK:
+		return c.E
 	case !valid:
 		return api.ErrArg
 	}
@@ -36,7 +37,7 @@ func fits(g api.Grammar, d api.Diagram) bool {
 
 // A checker checks the parts of a scan.
 type checker struct {
-	*sets
+	*sets.Numbers
 	grammar api.Grammar
 	end     int
 	good    int
@@ -45,23 +46,23 @@ type checker struct {
 // some returns the number of a set, and whether it fits the grammar and is not empty.
 func (c *checker) some(d api.Diagram) (int, bool) {
 	if !fits(c.grammar, d) {
-		return nothing, false
+		return sets.Nothing, false
 	}
-	n := c.number(d)
-	return n, n != nothing
+	n := c.Number(d)
+	return n, n != sets.Nothing
 }
 
 // faults reports whether the faults are valid, and leave the good configurations of the family.
 func (c *checker) faults(list []api.Fault, good api.Diagram) bool {
-	c.good = c.number(c.grammar.Family)
+	c.good = c.Number(c.grammar.Family)
 	for i, f := range list {
 		set, ok := c.some(f.If)
-		if !ok || !within(f.At, 0, c.end-1) || i > 0 && !earlier(list[i-1], f) || !c.subset(set, c.good) {
+		if !ok || !within(f.At, 0, c.end-1) || i > 0 && !earlier(list[i-1], f) || !c.Subset(set, c.good) {
 			return false
 		}
-		c.good = c.without(c.good, set)
+		c.good = c.Without(c.good, set)
 	}
-	return diagram.Same(good, c.list[c.good])
+	return diagram.Same(good, c.Diagram(c.good))
 }
 
 // earlier reports whether a fault comes before another one.
@@ -79,7 +80,7 @@ func (c *checker) lexemes(list []api.Lexeme, class int) bool {
 			return false
 		}
 		set, ok := c.some(x.If)
-		if !ok || !c.subset(set, c.good) || !c.choices(x.Choices, set, class) {
+		if !ok || !c.Subset(set, c.good) || !c.choices(x.Choices, set, class) {
 			return false
 		}
 	}
@@ -95,14 +96,14 @@ func (c *checker) choices(list []api.Choice, lexeme, class int) bool {
 		}
 		t := c.grammar.Tokens[x.Token]
 		set, ok := c.some(x.If)
-		if !ok || t.Class != class || !c.subset(set, left) || !c.subset(set, c.number(t.If)) {
+		if !ok || t.Class != class || !c.Subset(set, left) || !c.Subset(set, c.Number(t.If)) {
 			return false
 		}
 		if class == api.Remark {
-			left = c.without(left, set)
+			left = c.Without(left, set)
 		}
 	}
-	return class != api.Remark || left == nothing
+	return class != api.Remark || left == sets.Nothing
 }
 
 // A span is the bytes of a lexeme, and the number of its set.
@@ -112,21 +113,21 @@ type span struct{ from, to, set int }
 func (c *checker) apart(list []api.Lexeme) bool {
 	starts := make([]span, 0, len(list))
 	for _, x := range list {
-		starts = append(starts, span{x.From, x.To, c.number(x.If)})
+		starts = append(starts, span{x.From, x.To, c.Number(x.If)})
 	}
 	slices.SortFunc(starts, func(a, b span) int { return cmp.Compare(a.from, b.from) })
 	ends := slices.Clone(starts)
 	slices.SortFunc(ends, func(a, b span) int { return cmp.Compare(a.to, b.to) })
-	open := nothing // the configurations that have a lexeme here
+	open := sets.Nothing // the configurations that have a lexeme here
 	for _, next := range starts {
 		for ends[0].to <= next.from {
-			open = c.without(open, ends[0].set)
+			open = c.Without(open, ends[0].set)
 			ends = ends[1:]
 		}
-		if !c.disjoint(open, next.set) {
+		if !c.Disjoint(open, next.set) {
 			return false
 		}
-		open = c.or(open, next.set)
+		open = c.Or(open, next.set)
 	}
 	return true
 }

@@ -5,6 +5,7 @@ import (
 	"slices"
 
 	"koine/api"
+	"koine/sets"
 )
 
 // A found lexeme is a word or a remark, in the configurations of a set.
@@ -40,9 +41,9 @@ func (l *lexer) lexeme(at, set int) {
 	for _, s := range slices.Backward(l.follow(at, set)) {
 		b.settle(s.ends)
 		for _, t := range s.threads {
-			if set := l.and(t.set, b.left); set != nothing {
+			if set := l.And(t.set, b.left); set != sets.Nothing {
 				v := visit{s.piece, t.state}
-				l.vain[v] = l.or(l.vain[v], set)
+				l.vain[v] = l.Or(l.vain[v], set)
 			}
 		}
 	}
@@ -55,7 +56,7 @@ func (l *lexer) lexeme(at, set int) {
 
 // fail adds a fault if there are configurations that have it.
 func (l *lexer) fail(at int, cut bool, set int) {
-	if set != nothing {
+	if set != sets.Nothing {
 		l.faults = append(l.faults, fault{at, cut, set})
 	}
 }
@@ -63,12 +64,12 @@ func (l *lexer) fail(at int, cut bool, set int) {
 // settle decides on the lexeme of those configurations whose longest match has one of the ends in a piece. It requires that the ends behind this piece have been settled.
 func (b *beginning) settle(ends []end) {
 	slices.SortFunc(ends, func(x, y end) int { return cmp.Or(y.at-x.at, x.token-y.token) })
-	for len(ends) > 0 && b.left != nothing {
+	for len(ends) > 0 && b.left != sets.Nothing {
 		to := ends[0].at
 		// Behind the segment, a token can be among the candidates several times, with different sets. There, only its class matters.
 		var candidates []choice
 		for len(ends) > 0 && ends[0].at == to {
-			candidates = chosen(candidates, ends[0].token, b.and(ends[0].set, b.left))
+			candidates = chosen(candidates, ends[0].token, b.And(ends[0].set, b.left))
 			ends = ends[1:]
 		}
 		b.decide(to, candidates)
@@ -77,24 +78,24 @@ func (b *beginning) settle(ends []end) {
 
 // decide divides the configurations of candidates by the classes of the least ones.
 func (b *beginning) decide(to int, candidates []choice) {
-	word, remark, layout := nothing, nothing, nothing
+	word, remark, layout := sets.Nothing, sets.Nothing, sets.Nothing
 	var remarks []choice
 	for _, c := range candidates {
-		least := b.and(c.set, b.left)
-		b.left = b.without(b.left, least)
+		least := b.And(c.set, b.left)
+		b.left = b.Without(b.left, least)
 		switch b.tokens[c.token].Class {
 		case api.Ordinary:
-			word = b.or(word, least)
+			word = b.Or(word, least)
 		case api.Remark:
-			remark = b.or(remark, least)
+			remark = b.Or(remark, least)
 			remarks = chosen(remarks, c.token, least)
 		default:
-			layout = b.or(layout, least)
+			layout = b.Or(layout, least)
 		}
 	}
 	b.reach(to, layout)
 	if to > b.segment.to {
-		b.cut = b.or(b.cut, b.or(word, remark))
+		b.cut = b.Or(b.cut, b.Or(word, remark))
 		return
 	}
 	b.words = b.found(b.words, to, word, b.choices(to, word, candidates))
@@ -107,7 +108,7 @@ func (b *beginning) choices(to, word int, candidates []choice) []choice {
 	for _, c := range candidates {
 		if b.tokens[c.token].Class == api.Ordinary {
 			reserved := b.reserved[reservation{c.token, b.text[b.at:to]}]
-			list = chosen(list, c.token, b.without(b.and(c.set, word), reserved))
+			list = chosen(list, c.token, b.Without(b.And(c.set, word), reserved))
 		}
 	}
 	return list
@@ -115,7 +116,7 @@ func (b *beginning) choices(to, word int, candidates []choice) []choice {
 
 // chosen adds a token to a list if there are configurations that have it.
 func chosen(list []choice, token, set int) []choice {
-	if set == nothing {
+	if set == sets.Nothing {
 		return list
 	}
 	return append(list, choice{token, set})
@@ -123,7 +124,7 @@ func chosen(list []choice, token, set int) []choice {
 
 // found adds a lexeme to a list if there are configurations that have it, and goes on behind it.
 func (b *beginning) found(list []found, to, set int, choices []choice) []found {
-	if set == nothing {
+	if set == sets.Nothing {
 		return list
 	}
 	b.reach(to, set)

@@ -1,10 +1,13 @@
 package scanner
 
-import "koine/api"
+import (
+	"koine/api"
+	"koine/sets"
+)
 
 // A lexer scans a text in many configurations at once.
 type lexer struct {
-	*sets
+	*sets.Numbers
 	*machine
 	text     string
 	family   int
@@ -43,9 +46,9 @@ type line struct {
 }
 
 // newLexer returns a lexer for a text, given the numbers of sets.
-func newLexer(g api.Grammar, text string, s *sets, number func(d api.Diagram) int) *lexer {
+func newLexer(g api.Grammar, text string, s *sets.Numbers, number func(d api.Diagram) int) *lexer {
 	l := &lexer{
-		sets:     s,
+		Numbers:  s,
 		text:     text,
 		family:   number(g.Family),
 		reserved: map[reservation]int{},
@@ -63,7 +66,7 @@ func newLexer(g api.Grammar, text string, s *sets, number func(d api.Diagram) in
 		}
 	}
 	l.machine = newMachine(g.Tokens, func(t int) bool {
-		return l.present[t] != nothing && len(g.Tokens[t].Literal) <= len(text)
+		return l.present[t] != sets.Nothing && len(g.Tokens[t].Literal) <= len(text)
 	})
 	return l
 }
@@ -72,7 +75,7 @@ func newLexer(g api.Grammar, text string, s *sets, number func(d api.Diagram) in
 func (l *lexer) reserve(g api.Grammar, f api.Filter, set int) {
 	for _, t := range f.Tokens {
 		r := reservation{f.Token, g.Tokens[t].Literal}
-		l.reserved[r] = l.or(l.reserved[r], set)
+		l.reserved[r] = l.Or(l.reserved[r], set)
 	}
 }
 
@@ -86,12 +89,12 @@ func (l *lexer) scan(segments []segment) {
 	l.reached[0] = l.family
 	for _, g := range segments {
 		l.segment = g
-		with, without := l.split(l.reached[g.from], g.set)
+		with, without := l.Split(l.reached[g.from], g.set)
 		l.reached[g.from] = with
 		l.reach(g.to, without)
-		for at := g.from; at < g.to && l.e == api.OK; at++ {
+		for at := g.from; at < g.to && l.E == api.OK; at++ {
 			l.pass(at)
-			if set := l.reached[at]; set != nothing {
+			if set := l.reached[at]; set != sets.Nothing {
 				l.lexeme(at, set)
 			}
 			delete(l.reached, at)
@@ -101,8 +104,8 @@ func (l *lexer) scan(segments []segment) {
 
 // reach lets a lexeme begin at an offset in the configurations of a set. Where a segment begins, those without it go on behind it.
 func (l *lexer) reach(at, set int) {
-	if set != nothing {
-		l.reached[at] = l.or(l.reached[at], set)
+	if set != sets.Nothing {
+		l.reached[at] = l.Or(l.reached[at], set)
 	}
 }
 

@@ -1,6 +1,10 @@
 package scanner
 
-import "slices"
+import (
+	"slices"
+
+	"koine/sets"
+)
 
 // A thread is a state that reaches the beginning of a piece, in the configurations of a set.
 type thread struct{ state, set int }
@@ -24,10 +28,10 @@ func (l *lexer) follow(at, set int) []step {
 	var next []thread
 	matches, states := l.run(l.text, at, l.pieces[l.piece].to, l.begin(l.text[at]))
 	for _, m := range matches {
-		first.ends = append(first.ends, end{m.token, m.end, l.and(set, l.present[m.token])})
+		first.ends = append(first.ends, end{m.token, m.end, l.And(set, l.present[m.token])})
 	}
 	for _, n := range states {
-		next = append(next, thread{n, l.and(set, l.present[l.states[n].token])})
+		next = append(next, thread{n, l.And(set, l.present[l.states[n].token])})
 	}
 	steps := []step{first}
 	for k := l.piece + 1; k < len(l.pieces) && len(next) > 0; k++ {
@@ -45,7 +49,7 @@ func (l *lexer) cross(k int, threads []thread) (step, []thread) {
 	next := make([]thread, 0, len(threads)+1)
 	clear(l.places)
 	add := func(state, set int) {
-		if set == nothing {
+		if set == sets.Nothing {
 			return
 		}
 		i, ok := l.places[state]
@@ -54,13 +58,13 @@ func (l *lexer) cross(k int, threads []thread) (step, []thread) {
 			next = append(next, thread{state, set})
 			return
 		}
-		next[i].set = l.or(next[i].set, set)
+		next[i].set = l.Or(next[i].set, set)
 	}
 	var bundles []bundle
 	for i := range threads {
 		t := &threads[i]
-		t.set = l.without(t.set, l.vain[visit{k, t.state}])
-		with, without := l.split(t.set, p.set)
+		t.set = l.Without(t.set, l.vain[visit{k, t.state}])
+		with, without := l.Split(t.set, p.set)
 		add(t.state, without)
 		bundles = bundled(bundles, t.state, with)
 	}
@@ -84,7 +88,7 @@ type bundle struct {
 
 // bundled adds a thread to the bundle with its set.
 func bundled(bundles []bundle, state, set int) []bundle {
-	if set == nothing {
+	if set == sets.Nothing {
 		return bundles
 	}
 	i := slices.IndexFunc(bundles, func(b bundle) bool { return b.set == set })
