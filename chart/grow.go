@@ -7,6 +7,7 @@ import (
 
 	"koine/api"
 	"koine/facts"
+	"koine/gaps"
 	"koine/scanner"
 	"koine/sets"
 )
@@ -14,7 +15,7 @@ import (
 // A chart has the spans of a valid scan. They are found from the last gap to the first one: where those from a gap are looked for, those from all later gaps are known. Those from a gap are found from one gap where they can end to the next one.
 type chart struct {
 	*sets.Numbers
-	*gaps
+	*gaps.Gaps
 	*rules
 	spans   map[place]int32
 	links   [][]link // by gaps: those from it, ordered by symbols
@@ -41,11 +42,11 @@ func newChart(g api.Grammar, x api.Scan) (*chart, api.Errno) {
 		return nil, e
 	}
 	n := sets.New()
-	c := &chart{Numbers: n, gaps: newGaps(n, x), rules: newRules(n, g, nullable), spans: map[place]int32{}}
-	c.links = make([][]link, len(c.offsets))
-	c.board = newBoard(len(c.states), len(c.offsets))
+	c := &chart{Numbers: n, Gaps: gaps.New(n, x), rules: newRules(n, g, nullable), spans: map[place]int32{}}
+	c.links = make([][]link, len(c.Offsets))
+	c.board = newBoard(len(c.states), len(c.Offsets))
 	c.current = make([]int, len(c.states))
-	for from := c.last(); from >= 0 && c.fits(); from-- {
+	for from := c.Last(); from >= 0 && c.fits(); from-- {
 		c.look(from)
 	}
 	if !c.fits() {
@@ -77,7 +78,7 @@ func (c *chart) look(from int) {
 // empty adds the spans from a gap to itself.
 func (c *chart) empty(gap int) {
 	for _, left := range c.erasable {
-		if set := c.And(c.nullable[left], c.having(gap)); set != sets.Nothing {
+		if set := c.And(c.nullable[left], c.Having(gap)); set != sets.Nothing {
 			c.add(left, gap, gap, set)
 		}
 	}
@@ -90,12 +91,12 @@ func (c *chart) add(left, from, to, set int) {
 
 // read follows the words at a gap.
 func (c *chart) read(from int) {
-	for _, x := range c.words[from] {
+	for _, x := range c.Words[from] {
 		choices := c.choices(x)
 		if len(choices) == 0 {
 			continue
 		}
-		for to, having := range c.behind(from, c.Number(x.If)) {
+		for to, having := range c.Behind(from, c.Number(x.If)) {
 			for _, t := range choices {
 				if set := c.And(having, t.set); set != sets.Nothing {
 					c.fresh = append(c.fresh, link{int32(t.token), int32(to), int32(set)})
@@ -219,7 +220,7 @@ func (c *chart) list() []api.Span {
 	})
 	list := make([]api.Span, 0, len(places))
 	for _, p := range places {
-		list = append(list, api.Span{Left: int(p.left), From: c.offsets[p.from], To: c.offsets[p.to], If: c.Diagram(int(c.spans[p]))})
+		list = append(list, api.Span{Left: int(p.left), From: c.Offsets[p.from], To: c.Offsets[p.to], If: c.Diagram(int(c.spans[p]))})
 	}
 	return list
 }

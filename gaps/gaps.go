@@ -1,4 +1,5 @@
-package chart
+// Package gaps finds the gaps of a scan for all configurations at once. It is no layer; the layers that derive the words of a scan use it.
+package gaps
 
 import (
 	"iter"
@@ -8,21 +9,21 @@ import (
 	"koine/sets"
 )
 
-// gaps are the gaps of a valid scan in all configurations, numbered in ascending order.
-type gaps struct {
+// Gaps are the gaps of a valid scan in all configurations, numbered in ascending order.
+type Gaps struct {
 	*sets.Numbers
-	offsets []int
-	words   [][]api.Lexeme // by gaps: those that begin there
+	Offsets []int
+	Words   [][]api.Lexeme // by gaps: those that begin there
 	// blocks has, on level 0, for each gap the configurations that have it, and on each further level the union for every two elements of the level before, which is unknown until it is needed.
 	blocks [][]int
 }
 
 const unknown = -1
 
-// newGaps returns the gaps of a scan. The last one is its end, which all configurations have.
-func newGaps(n *sets.Numbers, x api.Scan) *gaps {
+// New returns the gaps of a scan. The last one is its end, which all configurations have.
+func New(n *sets.Numbers, x api.Scan) *Gaps {
 	most := len(x.Lexemes) + 1
-	g := &gaps{Numbers: n, offsets: make([]int, 0, most), words: make([][]api.Lexeme, 0, most)}
+	g := &Gaps{Numbers: n, Offsets: make([]int, 0, most), Words: make([][]api.Lexeme, 0, most)}
 	having := make([]int, 0, most)
 	for rest := x.Lexemes; len(rest) > 0; {
 		set, count := sets.Nothing, 0
@@ -30,29 +31,29 @@ func newGaps(n *sets.Numbers, x api.Scan) *gaps {
 			set = n.Or(set, n.Number(rest[count].If))
 			count++
 		}
-		g.offsets = append(g.offsets, rest[0].From)
-		g.words = append(g.words, rest[:count])
+		g.Offsets = append(g.Offsets, rest[0].From)
+		g.Words = append(g.Words, rest[:count])
 		having = append(having, set)
 		rest = rest[count:]
 	}
-	g.offsets = append(g.offsets, x.End)
-	g.words = append(g.words, nil)
+	g.Offsets = append(g.Offsets, x.End)
+	g.Words = append(g.Words, nil)
 	g.blocks = [][]int{append(having, n.Number(x.Good))}
-	for size := len(g.offsets); size > 1; {
+	for size := len(g.Offsets); size > 1; {
 		size = (size + 1) / 2
 		g.blocks = append(g.blocks, slices.Repeat([]int{unknown}, size))
 	}
 	return g
 }
 
-// last returns the gap at the end.
-func (g *gaps) last() int { return len(g.offsets) - 1 }
+// Last returns the gap at the end.
+func (g *Gaps) Last() int { return len(g.Offsets) - 1 }
 
-// having returns the configurations that have a gap.
-func (g *gaps) having(gap int) int { return g.blocks[0][gap] }
+// Having returns the configurations that have a gap.
+func (g *Gaps) Having(gap int) int { return g.blocks[0][gap] }
 
 // block returns the configurations that have one of the gaps of a block. There can be more if their set has too many branches.
-func (g *gaps) block(level, i int) int {
+func (g *Gaps) block(level, i int) int {
 	if g.blocks[level][i] == unknown {
 		below := g.blocks[level-1]
 		set := g.block(level-1, 2*i)
@@ -65,7 +66,7 @@ func (g *gaps) block(level, i int) int {
 }
 
 // next returns the first gap behind another one that some configurations of a set have. The set is not empty, so there is one at the end at the latest.
-func (g *gaps) next(gap, set int) int {
+func (g *Gaps) next(gap, set int) int {
 	level, i := 0, gap+1
 	for {
 		if !g.Disjoint(g.block(level, i), set) {
@@ -83,13 +84,13 @@ func (g *gaps) next(gap, set int) int {
 	}
 }
 
-// behind returns, for the configurations of a set that have a word at a gap, the gaps behind this word, each with those that have it.
-func (g *gaps) behind(gap, set int) iter.Seq2[int, int] {
+// Behind returns, for the configurations of a set that have a word at a gap, the gaps behind this word, each with those that have it.
+func (g *Gaps) Behind(gap, set int) iter.Seq2[int, int] {
 	return func(yield func(to, set int) bool) {
 		to, rest := gap, set
 		for rest != sets.Nothing && g.E == api.OK {
 			to = g.next(to, rest)
-			with, without := g.Split(rest, g.having(to))
+			with, without := g.Split(rest, g.Having(to))
 			if !yield(to, with) {
 				return
 			}
