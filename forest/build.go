@@ -9,6 +9,7 @@ import (
 	"koine/facts"
 	"koine/gaps"
 	"koine/sets"
+	"koine/sound"
 )
 
 // A builder builds the raw forest of a scan from the spans of its chart. It goes through them from the first gap to the last one, and those from the same gap from the last one where they end back to the first one. So each node comes behind all those whose kid it is, except for nodes between the same gaps.
@@ -181,7 +182,7 @@ func (b *builder) expand(i int) {
 				}
 			}
 		}
-		slices.SortFunc(list, compareAlternatives)
+		slices.SortFunc(list, sound.CompareAlternatives)
 		b.alternatives[i] = append(b.alternatives[i], list...)
 	}
 }

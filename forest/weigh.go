@@ -6,12 +6,13 @@ import (
 	"koine/api"
 	"koine/diagram"
 	"koine/sets"
+	"koine/sound"
 )
 
 // A weighing has the configurations in which the nodes of a sound forest have trees (inside), and in which they are in trees (outside).
 type weighing struct {
 	*sets.Numbers
-	plan
+	steps           []sound.Step
 	forest          api.Forest
 	first           []int   // by nodes: how many alternatives those before have
 	present         []int32 // by alternatives of all nodes
@@ -37,14 +38,14 @@ func weighed(f api.Forest, c api.Config) (*weighing, bool) {
 
 // newWeighing returns the weighing of a forest, and whether it is sound. A function gives sets their numbers.
 func newWeighing(f api.Forest, n *sets.Numbers, number func(d api.Diagram) int) (*weighing, bool) {
-	if !wellFormed(f) {
+	if !sound.Formed(f) {
 		return nil, false
 	}
-	p, e := planned(f)
+	steps, e := sound.Steps(f)
 	if e != api.OK {
 		return nil, false
 	}
-	w := &weighing{Numbers: n, plan: p, forest: f, first: make([]int, 0, len(f.Nodes)), present: make([]int32, 0, len(f.Nodes))}
+	w := &weighing{Numbers: n, steps: steps, forest: f, first: make([]int, 0, len(f.Nodes)), present: make([]int32, 0, len(f.Nodes))}
 	for _, node := range f.Nodes {
 		w.first = append(w.first, len(w.present))
 		for _, a := range node.Alternatives {
@@ -62,7 +63,7 @@ func newWeighing(f api.Forest, n *sets.Numbers, number func(d api.Diagram) int) 
 // rise finds the configurations in which nodes have trees.
 func (w *weighing) rise() {
 	for _, s := range w.steps {
-		s.settle(func(i int, again func(i int)) {
+		s.Settle(func(i int, again func(i int)) {
 			set := sets.Nothing
 			for k := range w.forest.Nodes[i].Alternatives {
 				set = w.Or(set, w.complete(i, k))
@@ -71,7 +72,7 @@ func (w *weighing) rise() {
 				return
 			}
 			w.inside[i] = int32(set)
-			for _, parent := range s.knot.above(i) {
+			for _, parent := range s.Above(i) {
 				again(parent)
 			}
 		})
@@ -109,11 +110,11 @@ func (w *weighing) fall() {
 		reach(r.Node, w.rooted(i))
 	}
 	for _, s := range slices.Backward(w.steps) {
-		s.reversed().settle(func(i int, again func(i int)) {
+		s.Reversed().Settle(func(i int, again func(i int)) {
 			for k, a := range w.forest.Nodes[i].Alternatives {
 				set := w.among(i, k)
 				for _, kid := range a.Kids {
-					if kid.Node != none && reach(kid.Node, set) && s.knot.has(kid.Node) {
+					if kid.Node != none && reach(kid.Node, set) && s.Knots(kid.Node) {
 						again(kid.Node)
 					}
 				}

@@ -32,6 +32,16 @@ func (n *Numbers) Without(a, b int) int { return n.kept(n.result(difference, a, 
 // Split returns the configurations of a that are in b, and those that are not.
 func (n *Numbers) Split(a, b int) (inside, outside int) { return n.And(a, b), n.Without(a, b) }
 
+// Choice returns the set that is low without a condition and high with it. Both of these depend on greater conditions only.
+func (n *Numbers) Choice(condition, low, high int) int {
+	if low == high {
+		return low
+	}
+	n.conditions |= 1 << condition
+	r := n.branch(branch{int32(condition), int32(low), int32(high)})
+	return n.kept(int(r), n.fits(r))
+}
+
 // Cover returns the union of two sets, or Everything if that would be an error.
 func (n *Numbers) Cover(a, b int) int {
 	if r, ok := n.result(union, a, b); ok {

@@ -106,6 +106,39 @@ func TestOperations(t *testing.T) {
 	}
 }
 
+// A choice, by a condition before those of its sets, of all sets of the two conditions behind it.
+func TestChoice(t *testing.T) {
+	n := sets.New()
+	for x := range table(16) {
+		for y := range table(16) {
+			// The tables of the sets do not depend on the first condition.
+			var low, high, want table
+			for c := range 8 {
+				low |= x >> (c / 2) & 1 << c
+				high |= y >> (c / 2) & 1 << c
+				want |= []table{low, high}[c%2] & (1 << c)
+			}
+			if got := n.Choice(0, n.Number(low.diagram()), n.Number(high.diagram())); got != n.Number(want.diagram()) {
+				t.Errorf("%08b or %08b: %v", low, high, n.Diagram(got))
+			}
+		}
+	}
+	if n.E != api.OK {
+		t.Errorf("error %d", n.E)
+	}
+	// As many branches as there can be, and one more.
+	last := sure(diagram.Var(61))
+	for _, want := range []api.Errno{api.OK, api.ErrLarge} {
+		n = sets.New()
+		number := n.Number(sure(diagram.Or(pairs(1, 12), last)))
+		got := n.Choice(0, sets.Nothing, number)
+		if n.E != want || want == api.OK && len(n.Diagram(got).Nodes) != api.MaxBranches || want != api.OK && got != sets.Nothing {
+			t.Errorf("error %d, %d branches", n.E, len(n.Diagram(got).Nodes))
+		}
+		last = sure(diagram.And(last, sure(diagram.Var(62))))
+	}
+}
+
 // pairs returns the configurations with both conditions of one of some pairs.
 func pairs(from, to int) api.Diagram {
 	d := diagram.Constant(false)

@@ -1,4 +1,4 @@
-package forest
+package sound
 
 import (
 	"iter"
@@ -11,38 +11,38 @@ import (
 // A plan has the nodes of a forest in an order in which each one comes behind its kids, but for kids in the same knot.
 type plan struct {
 	order   []int
-	steps   []step // all of the order, when it is complete
+	steps   []Step // all of the order, when it is complete
 	done    int    // how many nodes of the order are in steps
 	between bundle
 }
 
-// A step is a part of the order: the nodes of a knot, or other ones without a knot.
-type step struct {
+// A Step is a part of the order of a forest's nodes: those of a knot, or other ones without a knot. A knot has nodes between the same gaps whose kids lead in circles, or to circles, if conditions play no part.
+type Step struct {
 	nodes []int
 	knot  *knot
 }
 
-// A knot has nodes between the same gaps whose kids lead in circles, or to circles, if conditions play no part.
 type knot struct {
 	first   int
 	parents [][]int // by nodes, from the first one: those of the knot whose kid it is; nil for a node that is not in the knot
 }
 
-// has reports whether a node is in a knot, if there is one.
-func (k *knot) has(i int) bool {
+// Knots reports whether a node is in the knot of the step, if there is one.
+func (s Step) Knots(i int) bool {
+	k := s.knot
 	return k != nil && k.first <= i && i < k.first+len(k.parents) && k.parents[i-k.first] != nil
 }
 
-// above returns the parents of a node in a knot, if there is one.
-func (k *knot) above(i int) []int {
-	if k == nil {
+// Above returns the parents of a node of the step in its knot, if there is one.
+func (s Step) Above(i int) []int {
+	if s.knot == nil {
 		return nil
 	}
-	return k.parents[i-k.first]
+	return s.knot.parents[i-s.knot.first]
 }
 
-// planned returns the plan of a well-formed forest, or an error if it is not sound or a set is too large.
-func planned(f api.Forest) (plan, api.Errno) {
+// Steps returns the steps of a forest that is sound but for circles, in an order in which each node comes behind its kids, but for kids in the same step's knot. It returns ErrForest if there is a circle, and ErrLarge if a set is too large to find that out.
+func Steps(f api.Forest) ([]Step, api.Errno) {
 	p := plan{order: make([]int, 0, len(f.Nodes))}
 	// A node that begins later, or that begins at the same gap and ends earlier, has none of the other ones as a kid.
 	for behind := len(f.Nodes); behind > 0; {
@@ -64,10 +64,13 @@ func planned(f api.Forest) (plan, api.Errno) {
 	n := sets.New()
 	for _, s := range p.steps {
 		if s.circular(n, f) {
-			return plan{}, api.ErrForest
+			return nil, api.ErrForest
 		}
 	}
-	return p, n.E
+	if n.E != api.OK {
+		return nil, n.E
+	}
+	return p.steps, api.OK
 }
 
 // add adds the nodes from first to behind, which are those between two gaps.
@@ -160,13 +163,13 @@ func (x *bundle) parents(node int) iter.Seq[int] {
 // step adds a step of the nodes that are in none.
 func (p *plan) step(k *knot) {
 	if nodes := p.order[p.done:]; len(nodes) > 0 {
-		p.steps = append(p.steps, step{nodes, k})
+		p.steps = append(p.steps, Step{nodes, k})
 		p.done = len(p.order)
 	}
 }
 
 // circular reports whether the kids of the nodes of a knot lead in a circle in some configuration.
-func (s step) circular(n *sets.Numbers, f api.Forest) bool {
+func (s Step) circular(n *sets.Numbers, f api.Forest) bool {
 	if s.knot == nil {
 		return false
 	}
@@ -175,18 +178,18 @@ func (s step) circular(n *sets.Numbers, f api.Forest) bool {
 	for _, i := range s.nodes {
 		endless[i-s.knot.first] = sets.Everything
 	}
-	s.settle(func(i int, again func(i int)) {
+	s.Settle(func(i int, again func(i int)) {
 		set := sets.Nothing
 		for _, a := range f.Nodes[i].Alternatives {
 			for _, k := range a.Kids {
-				if s.knot.has(k.Node) {
+				if s.Knots(k.Node) {
 					set = n.Or(set, n.And(n.Number(a.If), endless[k.Node-s.knot.first]))
 				}
 			}
 		}
 		if n.E == api.OK && set != endless[i-s.knot.first] {
 			endless[i-s.knot.first] = set
-			for _, parent := range s.knot.above(i) {
+			for _, parent := range s.Above(i) {
 				again(parent)
 			}
 		}
@@ -194,8 +197,8 @@ func (s step) circular(n *sets.Numbers, f api.Forest) bool {
 	return n.E == api.OK && slices.ContainsFunc(endless, func(set int) bool { return set != sets.Nothing })
 }
 
-// settle visits the nodes of a step in their order, and those of a knot also again, as long as a visit asks for that.
-func (s step) settle(visit func(i int, again func(i int))) {
+// Settle visits the nodes of a step in their order, and those of a knot also again, as long as a visit asks for that.
+func (s Step) Settle(visit func(i int, again func(i int))) {
 	if s.knot == nil {
 		for _, i := range s.nodes {
 			visit(i, nil)
@@ -220,9 +223,9 @@ func (s step) settle(visit func(i int, again func(i int))) {
 	}
 }
 
-// reversed returns the step with its nodes in the opposite order.
-func (s step) reversed() step {
+// Reversed returns the step with its nodes in the opposite order.
+func (s Step) Reversed() Step {
 	nodes := slices.Clone(s.nodes)
 	slices.Reverse(nodes)
-	return step{nodes, s.knot}
+	return Step{nodes, s.knot}
 }

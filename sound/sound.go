@@ -1,4 +1,5 @@
-package forest
+// Package sound decides whether forests are sound, and puts their nodes in an order in which kids come first. It is no layer; several layers use it.
+package sound
 
 import (
 	"cmp"
@@ -8,8 +9,11 @@ import (
 	"koine/diagram"
 )
 
-// wellFormed reports whether a forest is sound but for circles.
-func wellFormed(f api.Forest) bool {
+// none is the Node of a kid that is a leaf, and the Token of any other kid.
+const none = -1
+
+// Formed reports whether a forest is sound but for circles.
+func Formed(f api.Forest) bool {
 	if len(f.Nodes) > api.MaxForest {
 		return false
 	}
@@ -18,7 +22,7 @@ func wellFormed(f api.Forest) bool {
 			return false
 		}
 		for k, a := range n.Alternatives {
-			if k > 0 && compareAlternatives(n.Alternatives[k-1], a) >= 0 || !proper(f, n, a) {
+			if k > 0 && CompareAlternatives(n.Alternatives[k-1], a) >= 0 || !proper(f, n, a) {
 				return false
 			}
 		}
@@ -43,7 +47,8 @@ func compareNodes(a, b api.ForestNode) int {
 	return cmp.Or(cmp.Compare(a.From, b.From), cmp.Compare(a.To, b.To), cmp.Compare(a.Left, b.Left), cmp.Compare(a.Copy, b.Copy))
 }
 
-func compareAlternatives(a, b api.Alternative) int {
+// CompareAlternatives says in which order two alternatives of a node are.
+func CompareAlternatives(a, b api.Alternative) int {
 	if a.Production != b.Production {
 		return cmp.Compare(a.Production, b.Production)
 	}
